@@ -575,16 +575,16 @@ func resultsOfAutomaton(a impl.Automaton) []string {
 	}
 }
 
-// TestAutomataAreToldAlike calls the functions often and at once, as neither the order of a map nor another call may show.
-func TestAutomataAreToldAlike(t *testing.T) {
-	a := automatonOf(t, "4;0;3;"+fullSteps)
-	want := resultsOfAutomaton(a)
+// wantAlike calls functions often and at once, as neither the order of a map nor another call may show in their results.
+func wantAlike(t *testing.T, times int, results func() []string) {
+	t.Helper()
+	want := results()
 	var workers sync.WaitGroup
 	for range 8 {
 		workers.Go(func() {
-			for range 50 {
-				if got := resultsOfAutomaton(a); !slices.Equal(got, want) {
-					t.Errorf("the functions of an automaton return %q, then %q", want, got)
+			for range times {
+				if got := results(); !slices.Equal(got, want) {
+					t.Errorf("the functions return %q, then %q", want, got)
 				}
 			}
 		})
@@ -592,22 +592,37 @@ func TestAutomataAreToldAlike(t *testing.T) {
 	workers.Wait()
 }
 
+func TestAutomataAreToldAlike(t *testing.T) {
+	a := automatonOf(t, "4;0;3;"+fullSteps)
+	wantAlike(t, 50, func() []string { return resultsOfAutomaton(a) })
+}
+
+// roomy is an automaton with room behind the ends of its lists, which shows whether something is put there.
+func roomy(a impl.Automaton) impl.Automaton {
+	return impl.Automaton{
+		States: a.States,
+		Starts: append(slices.Clone(a.Starts), 7, 7)[:len(a.Starts)],
+		Finals: append(slices.Clone(a.Finals), 7, 7)[:len(a.Finals)],
+		Steps:  append(slices.Clone(a.Steps), impl.Step{Cost: 7}, impl.Step{Cost: 7})[:len(a.Steps)],
+	}
+}
+
+// wantUntouched checks that an automaton made by roomy is as it was, its room included.
+func wantUntouched(t *testing.T, given impl.Automaton, before impl.Automaton) {
+	t.Helper()
+	after := impl.Step{Cost: 7}
+	starts, finals, steps := given.Starts[:len(before.Starts)+2], given.Finals[:len(before.Finals)+2], given.Steps[:len(before.Steps)+2]
+	if !sameAutomaton(given, before) || starts[len(before.Starts)] != 7 || finals[len(before.Finals)] != 7 || steps[len(before.Steps)] != after {
+		t.Errorf("%v has become %v", before, given)
+	}
+}
+
 func TestAutomataAreLeftAlone(t *testing.T) {
 	for _, a := range append(someAutomata(4, 50), invalidAutomata(t)...) {
-		// With room behind their ends, the lists show whether something is put there.
-		given := impl.Automaton{
-			States: a.States,
-			Starts: append(slices.Clone(a.Starts), 7, 7)[:len(a.Starts)],
-			Finals: append(slices.Clone(a.Finals), 7, 7)[:len(a.Finals)],
-			Steps:  append(slices.Clone(a.Steps), impl.Step{Cost: 7}, impl.Step{Cost: 7})[:len(a.Steps)],
-		}
+		given := roomy(a)
 		impl.AutomatonValid(given)
 		resultsOfAutomaton(given)
-		after := impl.Step{Cost: 7}
-		starts, finals, steps := given.Starts[:len(a.Starts)+2], given.Finals[:len(a.Finals)+2], given.Steps[:len(a.Steps)+2]
-		if !sameAutomaton(a, given) || starts[len(a.Starts)] != 7 || finals[len(a.Finals)] != 7 || steps[len(a.Steps)] != after {
-			t.Errorf("%v has become %v", a, given)
-		}
+		wantUntouched(t, given, a)
 	}
 }
 
@@ -625,34 +640,43 @@ func overwrite(a impl.Automaton) {
 	}
 }
 
+// wantOwnMemory writes over a result, over what it was made from, and over one list of another result.
+func wantOwnMemory(t *testing.T, what string, maker func(from ...impl.Automaton) (impl.Automaton, bool), texts ...string) {
+	t.Helper()
+	from := make([]impl.Automaton, len(texts))
+	for i, s := range texts {
+		from[i] = automatonOf(t, s)
+	}
+	first, _ := maker(from...)
+	second, ok := maker(from...)
+	want := impl.FormatAutomaton(second)
+	overwrite(first)
+	for i, s := range texts {
+		wantAutomaton(t, "an argument of "+what, from[i], ok, s)
+	}
+	wantAutomaton(t, "another result of "+what, second, ok, want)
+	again, ok := maker(from...)
+	wantAutomaton(t, "the next result of "+what, again, ok, want)
+	for _, a := range from {
+		overwrite(a)
+	}
+	wantAutomaton(t, "a result of "+what, second, ok, want)
+	starts := second.Starts[:cap(second.Starts)]
+	for i := range starts {
+		starts[i] = 9
+	}
+	if slices.Contains(second.Finals[:cap(second.Finals)], 9) {
+		t.Errorf("the lists of a result of %s share memory", what)
+	}
+}
+
 func TestAutomataShareNothing(t *testing.T) {
 	for _, s := range []string{"4;0 1 2;1 2 3;" + fullSteps, "1;0;0;0a0:0 0b0:0", "2;0 1;0 1;0a0:0 1b1:0", exampleAutomaton} {
-		makers := []func(a impl.Automaton) (impl.Automaton, bool){
-			impl.ReverseAutomaton, impl.FreeAutomaton,
-			func(impl.Automaton) (impl.Automaton, bool) { return impl.ParseAutomaton(s) },
-		}
-		for _, maker := range makers {
-			a := automatonOf(t, s)
-			first, _ := maker(a)
-			second, _ := maker(a)
-			want := impl.FormatAutomaton(second)
-			overwrite(first)
-			if impl.FormatAutomaton(a) != s || impl.FormatAutomaton(second) != want {
-				t.Errorf("a result shares memory with %q or another result", s)
-			}
-			again, ok := maker(a)
-			wantAutomaton(t, "the next result", again, ok, want)
-			overwrite(a)
-			if impl.FormatAutomaton(second) != want {
-				t.Errorf("a result shares memory with %q", s)
-			}
-			starts := second.Starts[:cap(second.Starts)]
-			for i := range starts {
-				starts[i] = 9
-			}
-			if slices.Contains(second.Finals[:cap(second.Finals)], 9) {
-				t.Errorf("the lists of a result of %q share memory", s)
-			}
+		for name, maker := range map[string]func(a impl.Automaton) (impl.Automaton, bool){
+			"ReverseAutomaton": impl.ReverseAutomaton, "FreeAutomaton": impl.FreeAutomaton,
+			"ParseAutomaton": func(impl.Automaton) (impl.Automaton, bool) { return impl.ParseAutomaton(s) },
+		} {
+			wantOwnMemory(t, name, func(from ...impl.Automaton) (impl.Automaton, bool) { return maker(from[0]) }, s)
 		}
 	}
 }

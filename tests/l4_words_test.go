@@ -5,7 +5,6 @@ import (
 	"slices"
 	"strconv"
 	"strings"
-	"sync"
 	"testing"
 
 	"loop.example/distanceautomata/impl"
@@ -536,22 +535,10 @@ func resultsOfWord(a impl.Automaton, w string) []string {
 	}
 }
 
-// TestWordsCostTheSameAgain calls the functions often and at once, as neither the order of a map nor another call may show.
 func TestWordsCostTheSameAgain(t *testing.T) {
 	a := automatonOf(t, "4;0 1 2;0 1 2 3;"+fullSteps)
 	for _, w := range []string{"", "ab", "bbaab", strings.Repeat("aab", 30)} {
-		want := resultsOfWord(a, w)
-		var workers sync.WaitGroup
-		for range 8 {
-			workers.Go(func() {
-				for range 20 {
-					if got := resultsOfWord(a, w); !slices.Equal(got, want) {
-						t.Errorf("the functions of a word return %q, then %q", want, got)
-					}
-				}
-			})
-		}
-		workers.Wait()
+		wantAlike(t, 20, func() []string { return resultsOfWord(a, w) })
 	}
 }
 
